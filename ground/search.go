@@ -4,214 +4,113 @@ import (
 	"slices"
 
 	"gameplayer/api"
+	"gameplayer/join"
 	"gameplayer/term"
-	"gameplayer/unify"
 )
 
-// set is a set of small numbers, those of variables or those of tables.
-type set uint
+// numbers are the numbers of the terms in a list of atoms.
+type numbers struct {
+	*join.Terms
+	atoms   []int       // those of the atoms
+	indexes map[int]int // the indexes of the atoms by their numbers
+}
 
-const everything = ^set(0)
-
-func single(i int) set { return 1 << i }
-
-func (s set) has(i int) bool { return s&single(i) != 0 }
-
-// varsOf returns the numbers of the variables of terms, which are their indexes in a list.
-func varsOf(vars []string, l ...api.Term) set {
-	var s set
-	for _, v := range term.Vars(l...) {
-		s |= single(slices.Index(vars, v))
+func numberTerms(atoms []api.Term) numbers {
+	n := numbers{Terms: join.NewTerms(), indexes: map[int]int{}}
+	for i := range len(atoms) {
+		number := n.Add(join.NewPattern(atoms[i], nil), join.Row{})
+		n.atoms = append(n.atoms, number)
+		n.indexes[number] = i
 	}
-	return s
+	return n
 }
 
-// row has the numbers of the terms of variables; 0 for a variable that has no term.
-type row [api.MaxVars]int
-
-// table has the rows of the variables with which an atom of a rule is in the list of atoms.
-type table struct {
-	number int
-	vars   set
-	rows   []row
+// parts are the atoms of a rule by what is required of them.
+type parts struct {
+	head     api.Term
+	pos, neg []api.Term
+	differ   [][2]api.Term // pairs of terms
 }
 
-// choice is what is known of an instance when rows are chosen from some tables.
-type choice struct {
-	row
-	bound set              // the variables that have a term
-	from  [api.MaxVars]set // for each of these the table from which it has its term
-}
-
-// search looks for the instances of a rule, by a choice of a row from each table.
-type search struct {
-	parts
-	vars       []string
-	conditions []condition
-	numbers    numbers
-	found      func(x api.GroundRule) bool
-	ended      bool // found has returned false
+// divide returns the parts of a rule without literals not distinct(a, b).
+func divide(r api.Rule) parts {
+	p := parts{head: r.Head}
+	for _, l := range r.Body {
+		switch {
+		case l.Atom.Name == distinct:
+			p.differ = append(p.differ, [2]api.Term{l.Atom.Args[0], l.Atom.Args[1]})
+		case l.Not:
+			p.neg = append(p.neg, l.Atom)
+		default:
+			p.pos = append(p.pos, l.Atom)
+		}
+	}
+	return p
 }
 
 // eachInstance calls found with the ground rules of a rule, some of them repeatedly, until it returns false.
-func eachInstance(r api.Rule, atoms []api.Term, n numbers, found func(x api.GroundRule) bool) {
-	p, ok := withoutEqualities(r)
+func eachInstance(r api.Rule, n numbers, found func(x api.GroundRule) bool) {
+	r, ok := join.WithoutEqualities(r)
 	if !ok {
 		return
 	}
-	patterns := append([]api.Term{p.head}, p.pos...)
-	x := search{parts: p, vars: term.Vars(patterns...), numbers: n, found: found}
-	x.conditions = conditions(p, x.vars)
-	if slices.ContainsFunc(x.conditions, func(c condition) bool { return len(c.equations) == 0 }) {
-		return
+	p := divide(r)
+	listed := append([]api.Term{p.head}, p.pos...)
+	vars := term.Vars(listed...)
+	head, pos, neg := patterns(vars, p.head), patterns(vars, p.pos...), patterns(vars, p.neg...)
+	var tables []join.Table
+	var all join.Set
+	for _, x := range slices.Concat(head, pos) {
+		tables = append(tables, join.Table{Vars: x.Vars(), Rows: n.rows(x)})
+		all |= x.Vars()
 	}
-	var tables []table
-	for i := range len(patterns) {
-		tables = append(tables, table{i, varsOf(x.vars, patterns[i]), x.rows(patterns[i], atoms)})
+	join.Find(tables, n.conditions(p, vars), all, func(r join.Row) bool {
+		return found(api.GroundRule{Head: n.listed(r, head)[0], Pos: n.listed(r, pos), Neg: n.listed(r, neg)})
+	})
+}
+
+func patterns(vars []string, l ...api.Term) []join.Pattern {
+	var list []join.Pattern
+	for _, t := range l {
+		list = append(list, join.NewPattern(t, vars))
 	}
-	x.choose(tables, choice{})
+	return list
 }
 
 // rows returns a row for each atom that matches a pattern.
-func (x *search) rows(pattern api.Term, atoms []api.Term) []row {
-	var rows []row
-	for _, t := range atoms {
-		s, ok := unify.Match(pattern, t, nil)
-		if !ok {
-			continue
+func (n numbers) rows(p join.Pattern) []join.Row {
+	var rows []join.Row
+	for _, number := range n.atoms {
+		if r, ok := n.Match(p, number); ok {
+			rows = append(rows, r)
 		}
-		var r row
-		for _, b := range s {
-			r[slices.Index(x.vars, b.Var)] = x.number(b.Term, row{})
-		}
-		rows = append(rows, r)
 	}
 	return rows
 }
 
-// number returns the number of a term with the variables of a row; 0 if it has none.
-func (x *search) number(t api.Term, r row) int {
-	return x.numbers.of(t, func(name string) (int, bool) {
-		i := slices.Index(x.vars, name)
-		if i < 0 {
-			return 0, false
-		}
-		return r[i], true
-	})
-}
-
-// choose chooses rows from the open tables in all ways, the smallest table first. When there are no more ways, it returns tables from which rows were chosen before and which suffice as the reason: with the same rows from these, there are no more instances whatever is chosen from the others. So, many choices that make no difference need not be tried.
-func (x *search) choose(open []table, c choice) set {
-	if len(open) == 0 {
-		x.ended = !x.found(x.groundRule(c.row))
-		return everything
-	}
-	next := smallest(open)
-	t := open[next]
-	rest := slices.Delete(slices.Clone(open), next, next+1)
-	reason := c.sources(t.vars)
-	for i := range len(t.rows) {
-		why := x.follow(rest, c, c.with(t, t.rows[i]))
-		if x.ended || !why.has(t.number) {
-			return why
-		}
-		reason |= why
-	}
-	return reason &^ single(t.number)
-}
-
-func smallest(tables []table) int {
-	best := 0
-	for i, t := range tables {
-		if len(t.rows) < len(tables[best].rows) {
-			best = i
+// conditions are those under which an instance with its atoms in the list yields a ground rule. That numbers of atoms differ, as they must, means that the atoms do.
+func (n numbers) conditions(p parts, vars []string) []join.Condition {
+	pairs := slices.Clone(p.differ)
+	for _, a := range p.pos {
+		pairs = append(pairs, [2]api.Term{a, p.head})
+		for _, b := range p.neg {
+			pairs = append(pairs, [2]api.Term{a, b})
 		}
 	}
-	return best
-}
-
-// with returns a choice with a row of a table in addition.
-func (c choice) with(t table, r row) choice {
-	for v := range api.MaxVars {
-		if t.vars.has(v) && !c.bound.has(v) {
-			c.row[v] = r[v]
-			c.from[v] = single(t.number)
+	var list []join.Condition
+	for _, x := range pairs {
+		if y, ok := join.NewEquality(x[0], x[1], vars); ok {
+			list = append(list, y.Differ(n.Terms))
 		}
 	}
-	c.bound |= t.vars
-	return c
+	return list
 }
 
-// sources returns the tables from which variables have their terms.
-func (c choice) sources(vars set) set {
-	var tables set
-	for v := range api.MaxVars {
-		if vars.has(v) {
-			tables |= c.from[v]
-		}
-	}
-	return tables
-}
-
-// follow leaves the rows of the open tables that agree with a choice, and goes on from there. It returns the same as choose.
-func (x *search) follow(open []table, before, c choice) set {
-	fresh := c.bound &^ before.bound
-	for _, y := range x.conditions {
-		if y.vars&fresh != 0 && y.vars&^c.bound == 0 && x.allHold(y.equations, c.row) {
-			return c.sources(y.vars)
-		}
-	}
-	rest := make([]table, len(open))
-	for i, t := range open {
-		rest[i] = t.agreeing(c.row, fresh)
-		if len(rest[i].rows) == 0 {
-			return c.sources(t.vars)
-		}
-	}
-	return x.choose(rest, c)
-}
-
-// allHold reports whether all equations hold for the terms of a row.
-func (x *search) allHold(equations []api.Binding, r row) bool {
-	return !slices.ContainsFunc(equations, func(b api.Binding) bool {
-		return x.number(api.Term{Name: b.Var}, r) != x.number(b.Term, r)
-	})
-}
-
-// agreeing returns a table without the rows that give some variables other terms.
-func (t table) agreeing(r row, vars set) table {
-	vars &= t.vars
-	if vars == 0 {
-		return t
-	}
-	var rows []row
-	for _, other := range t.rows {
-		if other.agrees(r, vars) {
-			rows = append(rows, other)
-		}
-	}
-	return table{t.number, t.vars, rows}
-}
-
-func (r row) agrees(other row, vars set) bool {
-	for v := range api.MaxVars {
-		if vars.has(v) && r[v] != other[v] {
-			return false
-		}
-	}
-	return true
-}
-
-// groundRule returns the ground rule of the instance that has the terms of a row.
-func (x *search) groundRule(r row) api.GroundRule {
-	return api.GroundRule{Head: x.indexes(r, x.head)[0], Pos: x.indexes(r, x.pos...), Neg: x.indexes(r, x.neg...)}
-}
-
-// indexes returns the indexes of those atoms of an instance that are in the list, ascending, each once.
-func (x *search) indexes(r row, l ...api.Term) []int {
+// listed returns the indexes of those atoms of an instance that are in the list, ascending, each once.
+func (n numbers) listed(r join.Row, l []join.Pattern) []int {
 	var list []int
-	for _, t := range l {
-		if i, listed := x.numbers.atoms[x.number(t, r)]; listed {
+	for _, p := range l {
+		if i, ok := n.indexes[n.Number(p, r)]; ok {
 			list = append(list, i)
 		}
 	}
