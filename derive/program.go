@@ -1,4 +1,4 @@
-// Package derive evaluates rules in rounds. Layers 12, 15 and 16 share it.
+// Package derive evaluates rules in rounds. Layers 12 and 15 to 17 share it.
 package derive
 
 import (
