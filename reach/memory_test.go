@@ -1,7 +1,6 @@
 package reach_test
 
 import (
-	"slices"
 	"testing"
 
 	"gameplayer/api"
@@ -14,33 +13,6 @@ import (
 const deep = `role(x). role(y). init(p(f(a))). legal(x,g(X)) if true(p(X)). legal(x,h(k)). legal(y,i(k)).
 next(p(f(a))) if does(x,g(X)). next(q(X,X)) if does(x,h(X)).
 `
-
-// roomy copies a graph so that all its lists have spare capacity.
-func roomy(x api.Graph) api.Graph {
-	y := api.Graph{States: make([][]api.Term, 0, len(x.States)+2), Depths: slices.Grow(slices.Clone(x.Depths), 2), Steps: make([]api.Step, 0, len(x.Steps)+2), Complete: x.Complete}
-	for _, s := range x.States {
-		y.States = append(y.States, sample.Roomy(s))
-	}
-	for _, s := range x.Steps {
-		y.Steps = append(y.Steps, api.Step{From: s.From, Joint: sample.Roomy(s.Joint), To: s.To})
-	}
-	return y
-}
-
-// showAll shows a graph with what its lists have beyond their ends.
-func showAll(x api.Graph) string {
-	text := show(x)
-	for _, s := range x.States[:cap(x.States)] {
-		text += sample.Show(s)
-	}
-	for _, s := range x.Steps[:cap(x.Steps)] {
-		text += sample.Show(s.Joint)
-	}
-	for _, d := range x.Depths[:cap(x.Depths)] {
-		text += string(rune('0' + d))
-	}
-	return text
-}
 
 // R5: results are new memory, and no two lists of one share any.
 func TestGraphMemory(t *testing.T) {
@@ -77,11 +49,11 @@ func TestGraphMemory(t *testing.T) {
 func TestArguments(t *testing.T) {
 	g := game(deep)
 	x, _ := reach.Graph(g, 3)
-	x = roomy(x)
+	x = sample.RoomyGraph(x)
 	l := [][]api.Term{sample.Roomy(terms("g(f(a)),i(k)")), sample.Roomy(terms("h(k),i(k)")), sample.Roomy(terms("g(f(a)),i(k)"))}
 	state := sample.Roomy(terms("q(k,k)"))
 	shown := func() string {
-		return showAll(x) + sample.Show(state) + sample.Show(l[0]) + sample.Show(l[1]) + sample.Show(l[2])
+		return sample.ShowGraph(x) + sample.Show(state) + sample.Show(l[0]) + sample.Show(l[1]) + sample.Show(l[2])
 	}
 	before := shown()
 	for range 2 {
