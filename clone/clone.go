@@ -1,7 +1,11 @@
-// Package clone copies terms and rules with all their lists, since results and objects share no memory with arguments.
+// Package clone copies terms, rules and networks with all their lists, since results and objects share no memory with arguments.
 package clone
 
-import "gameplayer/api"
+import (
+	"slices"
+
+	"gameplayer/api"
+)
 
 // Term copies a term.
 func Term(t api.Term) api.Term { return api.Term{Name: t.Name, Args: Terms(t.Args)} }
@@ -27,6 +31,31 @@ func Rules(l []api.Rule) []api.Rule {
 			x.Body = append(x.Body, api.Literal{Not: y.Not, Atom: Term(y.Atom)})
 		}
 		copied = append(copied, x)
+	}
+	return copied
+}
+
+// Net copies a network.
+func Net(net api.Net) api.Net {
+	copied := net // the lists follow
+	copied.Gates = slices.Clone(net.Gates)
+	for i, g := range net.Gates {
+		copied.Gates[i].In = slices.Clone(g.In)
+	}
+	copied.Roles, copied.Bases = Terms(net.Roles), Terms(net.Bases)
+	copied.Inputs = slices.Clone(net.Inputs)
+	for i, x := range net.Inputs {
+		copied.Inputs[i].Move = Term(x.Move)
+	}
+	copied.Initial, copied.Next, copied.Legal = slices.Clone(net.Initial), slices.Clone(net.Next), slices.Clone(net.Legal)
+	copied.Goals, copied.Sees = outputs(net.Goals), outputs(net.Sees)
+	return copied
+}
+
+func outputs(l []api.Output) []api.Output {
+	copied := slices.Clone(l)
+	for i, o := range l {
+		copied[i].Term = Term(o.Term)
 	}
 	return copied
 }

@@ -1,9 +1,11 @@
 package clone_test
 
 import (
+	"math/rand/v2"
 	"testing"
 
 	"gameplayer/clone"
+	"gameplayer/network"
 	"gameplayer/sample"
 )
 
@@ -28,5 +30,22 @@ func TestClone(t *testing.T) {
 	}
 	if clone.Terms(nil) != nil || clone.Rules(nil) != nil || clone.Term(terms[0]).Args != nil {
 		t.Error("empty lists")
+	}
+}
+
+// A copy of a network is equal and shares no memory with it.
+func TestNet(t *testing.T) {
+	r := rand.New(rand.NewPCG(1, 5))
+	for range 200 {
+		n := sample.RoomyNet(sample.AnyNet(r.IntN))
+		before := sample.ShowNet(n)
+		copied := clone.Net(n)
+		if network.Text(copied) != network.Text(n) {
+			t.Fatal(copied, n)
+		}
+		sample.SpoilNet(copied)
+		if sample.ShowNet(n) != before {
+			t.Fatal("what was copied has changed")
+		}
 	}
 }

@@ -188,6 +188,71 @@ func ShowNet(net api.Net) string {
 	return text
 }
 
+// SpoilNet changes everything that the lists of a network and their spare capacity reach.
+func SpoilNet(net api.Net) {
+	for i, g := range net.Gates[:cap(net.Gates)] {
+		spoilNumbers(g.In)
+		net.Gates[:cap(net.Gates)][i] = api.Gate{Kind: -9}
+	}
+	Spoil(net.Roles)
+	Spoil(net.Bases)
+	for i, x := range net.Inputs[:cap(net.Inputs)] {
+		Spoil(x.Move.Args)
+		net.Inputs[:cap(net.Inputs)][i] = api.Input{Role: -9}
+	}
+	for _, l := range [][]int{net.Initial, net.Next, net.Legal} {
+		spoilNumbers(l)
+	}
+	for _, l := range [][]api.Output{net.Goals, net.Sees} {
+		for i, o := range l[:cap(l)] {
+			Spoil(o.Term.Args)
+			l[:cap(l)][i] = api.Output{Role: -9}
+		}
+	}
+}
+
+// SharesNet reports whether two lists of a network share memory.
+func SharesNet(net api.Net) bool {
+	numbers := [][]int{net.Initial, net.Next, net.Legal}
+	for _, g := range net.Gates {
+		numbers = append(numbers, g.In)
+	}
+	terms := [][]api.Term{net.Roles, net.Bases}
+	for _, x := range net.Inputs {
+		terms = append(terms, x.Move.Args)
+	}
+	for _, o := range slices.Concat(net.Goals, net.Sees) {
+		terms = append(terms, o.Term.Args)
+	}
+	for i := 0; i < len(terms); i++ { // what is nested is appended
+		for _, t := range terms[i] {
+			terms = append(terms, t.Args)
+		}
+	}
+	return share(numbers...) || share(terms...) || share(net.Goals, net.Sees)
+}
+
+// share reports whether two lists share memory.
+func share[T any](lists ...[]T) bool {
+	met := map[*T]bool{}
+	for _, l := range lists {
+		l = l[:cap(l)]
+		for i := range l {
+			if met[&l[i]] {
+				return true
+			}
+			met[&l[i]] = true
+		}
+	}
+	return false
+}
+
+func spoilNumbers(l []int) {
+	for i := range l[:cap(l)] {
+		l[:cap(l)][i] = -9
+	}
+}
+
 func showOutputs(l []api.Output) string {
 	text := showNumbers([]int{len(l)})
 	for _, o := range l[:cap(l)] {

@@ -1,4 +1,4 @@
-// Package sample serves the tests of several packages: it has games, networks, and functions that show whether memory is shared. No package of the program imports it.
+// Package sample serves the tests of several packages: it has games, ground descriptions, networks, and functions that show whether memory is shared. No package of the program imports it.
 package sample
 
 import (
