@@ -73,7 +73,7 @@ func (p play) inState(state []api.Term) (string, string) {
 			continue
 		}
 		value, e := p.game.Goal(state, role)
-		byRules = append(byRules, fmt.Sprint("goal ", value, e))
+		byRules = append(byRules, fmt.Sprintf("goal %d %d", value, e))
 		byNet = append(byNet, goal(p.net, values, role))
 	}
 	ends, _ := p.game.Terminal(state)
@@ -89,29 +89,29 @@ func goal(net api.Net, values []bool, role int) string {
 		}
 	}
 	if len(held) != 1 {
-		return fmt.Sprint("goal ", 0, api.ErrGoal)
+		return fmt.Sprintf("goal 0 %d", api.ErrGoal)
 	}
-	return fmt.Sprint("goal ", held[0], api.OK)
+	return fmt.Sprintf("goal %d %d", held[0], api.OK)
 }
 
 // afterMove shows what a joint move leads to by the rules, and by the network.
 func (p play) afterMove(state, joint []api.Term) (string, string) {
 	values := sample.Values(p.net, p.numbers(state), p.inputs(joint))
 	next, e := p.game.Next(state, joint)
-	byRules, byNet := fmt.Sprint(e, p.numbers(next)), []int{}
+	byRules, byNet := fmt.Sprintf("%d %v", e, p.numbers(next)), []int{}
 	for i, gate := range p.net.Next {
 		if values[gate] {
 			byNet = append(byNet, i)
 		}
 	}
-	text := fmt.Sprint(api.OK, byNet)
+	text := fmt.Sprintf("%d %v", api.OK, byNet)
 	for role := range p.game.Roles() {
 		percepts, e := p.game.Sees(state, joint, role)
-		byRules += fmt.Sprint(e)
+		byRules += fmt.Sprint(int(e))
 		for _, x := range percepts {
 			byRules += " " + term.Text(x)
 		}
-		text += fmt.Sprint(api.OK)
+		text += fmt.Sprint(int(api.OK))
 		for _, o := range p.net.Sees {
 			if o.Role == role && values[o.Gate] {
 				text += " " + term.Text(o.Term)

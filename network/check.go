@@ -5,6 +5,7 @@ import (
 	"slices"
 
 	"gameplayer/api"
+	"gameplayer/subset"
 	"gameplayer/term"
 )
 
@@ -34,7 +35,7 @@ func gateError(net api.Net, number int) api.Errno {
 		return api.ErrRange
 	case !readsEnough(g):
 		return api.ErrInvalid
-	case !ascendBelow(g.In, number):
+	case !subset.Valid(g.In, number):
 		return api.ErrOrder
 	}
 	return api.OK
@@ -87,7 +88,7 @@ func factsValid(net api.Net) bool {
 			return false
 		}
 	}
-	return ascend(net.Bases, term.Compare) && ascendBelow(net.Initial, len(net.Bases)) && len(net.Next) == len(net.Bases)
+	return ascend(net.Bases, term.Compare) && subset.Valid(net.Initial, len(net.Bases)) && len(net.Next) == len(net.Bases)
 }
 
 // movesValid does the same for the lists of inputs.
@@ -126,11 +127,6 @@ func compareOutputs(a, b api.Output) int {
 }
 
 func below(n, count int) bool { return n >= 0 && n < count }
-
-// ascendBelow reports whether a list is ascending and has only numbers from 0 on that are below a count.
-func ascendBelow(l []int, count int) bool {
-	return len(l) == 0 || l[0] >= 0 && l[len(l)-1] < count && ascend(l, cmp.Compare[int])
-}
 
 // ascend reports whether a list is ascending.
 func ascend[T any](l []T, compare func(a, b T) int) bool {
