@@ -182,6 +182,42 @@ func TestValues(t *testing.T) {
 	}
 }
 
+// The values of gates of all kinds in three-valued logic, and, where nothing is unknown, those of Values
+func TestTernary(t *testing.T) {
+	n := sample.Net("0 false\n1 true\n2 base 0\n3 base 1\n4 input 0\n5 input 1\n6 and 2 3\n7 or 2 3\n8 and 4 5\n9 or 4 5\n10 not 2\n11 not 9\nrole 0 x\nfact 0 a\nfact 1 b\nmove 0 0 a\nmove 1 0 b\ninitial\nnext 0 6\nnext 1 7\nlegal 0 8\nlegal 1 9\nterminal 1\n")
+	for _, c := range []struct {
+		bases, inputs []int
+		want          string
+	}{
+		{[]int{2, 2}, []int{2, 2}, "[0 1 2 2 2 2 2 2 2 2 2 2]"},
+		{[]int{0, 2}, []int{2, 1}, "[0 1 0 2 2 1 0 2 2 1 1 0]"},
+		{[]int{1, -1}, []int{7, 0}, "[0 1 1 2 2 0 2 1 0 2 0 2]"},
+		{[]int{1, 0}, []int{1, 1}, "[0 1 1 0 1 1 0 1 1 1 0 0]"},
+	} {
+		if got := fmt.Sprint(sample.Ternary(n, c.bases, c.inputs)); got != c.want {
+			t.Errorf("%v, %v: %s, want %s", c.bases, c.inputs, got, c.want)
+		}
+	}
+	r := rand.New(rand.NewPCG(1, 6))
+	for range 300 {
+		n := sample.AnyNet(r.IntN)
+		state, inputs := sample.Subset(r.IntN, len(n.Bases)), sample.Subset(r.IntN, len(n.Inputs))
+		bases, moves := make([]int, len(n.Bases)), make([]int, len(n.Inputs))
+		for _, i := range state {
+			bases[i] = 1
+		}
+		for _, i := range inputs {
+			moves[i] = 1
+		}
+		got := sample.Ternary(n, bases, moves)
+		for i, value := range sample.Values(n, state, inputs) {
+			if got[i] != map[bool]int{true: 1}[value] {
+				t.Fatal(network.Text(n), state, inputs, got)
+			}
+		}
+	}
+}
+
 // Ground descriptions have the atoms and rules of their texts, and copies of them share no memory with what was copied.
 func TestGround(t *testing.T) {
 	fresh := func() api.Ground {

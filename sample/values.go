@@ -58,3 +58,42 @@ func Subset(below func(n int) int, count int) []int {
 	}
 	return l
 }
+
+// Ternary returns the values of the gates of a valid network in three-valued logic, for values of all bases and inputs.
+func Ternary(net api.Net, bases, inputs []int) []int {
+	const unknown, most = 1, 2 // between false, which is 0, and true
+	levels := map[int]int{api.TernFalse: 0, api.TernTrue: most}
+	level := func(value int) int {
+		if l, known := levels[value]; known {
+			return l
+		}
+		return unknown
+	}
+	var ranked, values []int
+	for _, g := range net.Gates {
+		var read []int
+		for _, i := range g.In {
+			read = append(read, ranked[i])
+		}
+		switch g.Kind {
+		case api.GateFalse:
+			ranked = append(ranked, 0)
+		case api.GateTrue:
+			ranked = append(ranked, most)
+		case api.GateBase:
+			ranked = append(ranked, level(bases[g.Index]))
+		case api.GateInput:
+			ranked = append(ranked, level(inputs[g.Index]))
+		case api.GateAnd:
+			ranked = append(ranked, slices.Min(read))
+		case api.GateOr:
+			ranked = append(ranked, slices.Max(read))
+		case api.GateNot:
+			ranked = append(ranked, most-read[0])
+		}
+	}
+	for _, l := range ranked {
+		values = append(values, [...]int{api.TernFalse, api.TernUnknown, api.TernTrue}[l])
+	}
+	return values
+}
