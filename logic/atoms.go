@@ -125,18 +125,3 @@ func divide(atoms []api.Term, relation string) ([]api.Term, []api.Term) {
 	}
 	return with, without
 }
-
-// jointsError returns the error of the numbers of legal moves of all roles.
-func jointsError(moves [][]api.Term) api.Errno {
-	e, count := api.OK, 1
-	for _, l := range moves {
-		count = min(count*len(l), api.MaxJoint+1)
-		switch {
-		case len(l) == 0:
-			return api.ErrMove
-		case len(l) > api.MaxMoves || count > api.MaxJoint:
-			e = api.ErrTooLarge
-		}
-	}
-	return e
-}
